@@ -4,6 +4,7 @@ import (
 	"bytes"
 
 	"tether/api"
+	"tether/spell"
 )
 
 // neverFrom is the first number of the protocols whose frames always go as they are.
@@ -12,7 +13,7 @@ const neverFrom = 0x4000
 // Bytes answers a frame's bytes.
 func Bytes(f api.Frame) ([]byte, api.Errno) {
 	switch {
-	case !protoRight(f.Proto):
+	case !spell.Proto(f.Proto):
 		return nil, api.ErrProto
 	case len(f.Info) > api.MaxMru:
 		return nil, api.ErrSize
@@ -35,7 +36,7 @@ func Frame(b []byte) (api.Frame, api.Errno) {
 		proto = proto<<8 | int(c)
 	}
 	switch {
-	case !protoRight(proto):
+	case !spell.Proto(proto):
 		return api.Frame{}, api.ErrProto
 	case len(b)-head > api.MaxMru:
 		return api.Frame{}, api.ErrSize
@@ -49,11 +50,6 @@ func headSize(b []byte) int {
 		return 1
 	}
 	return 2
-}
-
-// protoRight tells whether n is a protocol's number.
-func protoRight(n int) bool {
-	return n > 0 && n <= 0xffff && n&0x0101 == 1
 }
 
 // compressed tells whether a frame of a protocol, with so many bytes, is compressed.

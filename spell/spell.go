@@ -1,4 +1,4 @@
-// Package spell tells how names, addresses and lines of words are spelt, in files of options and of secrets alike, and what a line at fault is.
+// Package spell tells how names, addresses and lines of words are spelt, in files of options and of secrets alike, what a line at fault is, and which numbers are protocols'.
 package spell
 
 import (
