@@ -420,3 +420,29 @@ func TestBytesInPieces(t *testing.T) {
 		}
 	}
 }
+
+func TestBytesInPiecesFromTheStart(t *testing.T) {
+	for seed := range chance(200) {
+		d := seed + 1
+		more := one(&d, "", "ipv6\n") + one(&d, "", "require-pap\n", "require-chap\n", "require-eap\n") + one(&d, "", "asyncmap 0\n", "mru 200\n")
+		secrets := []string{"alice mill x", "mill alice x"}
+		v, w := joined(t, desk(t, mill+more, secrets...), desk(t, alice+more, secrets...)), joined(t, desk(t, mill+more, secrets...), desk(t, alice+more, secrets...))
+		for range d.next(9) {
+			x := Act{Kind: Packet, Side: d.next(2), B: d.packet()}
+			v.Do(x)
+			w.Do(x)
+		}
+		plays(t, v, flow)
+		for len(w.Waits(0))+len(w.Waits(1)) > 0 {
+			plays(t, w, Act{Kind: Carry, Side: d.next(2), N: int64(1 + d.next(one(&d, 3, 40, 400)))})
+		}
+		for side := range 2 { // packets of both networks may come in another order among them
+			for _, version := range []byte{4, 6} {
+				if !sameLists(ofVersion(v.Told(side), version), ofVersion(w.Told(side), version)) || !sameLists(v.Taken(side), w.Taken(side)) {
+					t.Fatal(more, v.Told(side), w.Told(side))
+				}
+			}
+			sameDesks(t, v.ends[side].desk, w.ends[side].desk)
+		}
+	}
+}
